@@ -10,16 +10,18 @@ type talker struct {
 	*Dice
 	b     strings.Builder
 	ranks int
-	// requests is how many requests the rank has by now, comms how many handles.
-	requests, comms int
+	// requests is how many requests the rank has by now.
+	requests int
+	// busy has many messages be on their way, and most receives be of any rank.
+	busy bool
 }
 
 // Talk tells the text of a small program without loops for so many ranks, of a seed: receives of any rank, polls and waits decide what becomes of it; steps is about how many calls a rank makes.
 func Talk(seed, ranks, steps int) string {
-	t := &talker{Dice: Seeded(seed), ranks: ranks}
+	t := &talker{Dice: Seeded(seed), ranks: ranks, busy: seed%2 == 0}
 	t.b.WriteString("int x;\n")
 	for rank := range ranks {
-		t.requests, t.comms = 0, 1
+		t.requests = 0
 		t.b.WriteString("if rank == " + strconv.Itoa(rank) + " {\n")
 		for range 1 + t.Throw(steps) {
 			t.b.WriteString("  " + t.statement() + "\n")
@@ -36,13 +38,18 @@ func (t *talker) number(n int) string { return strconv.Itoa(t.Throw(n)) }
 
 // sender tells any, or now and then a rank.
 func (t *talker) sender() string {
-	if t.Throw(3) > 0 {
+	if t.Throw(3) > 0 || t.busy && t.Throw(4) > 0 {
 		return "any"
 	}
 	return t.number(t.ranks)
 }
 
-func (t *talker) tag() string { return t.One("0", "0", "0", "1", "any") }
+func (t *talker) tag() string {
+	if t.busy {
+		return t.One("0", "any")
+	}
+	return t.One("0", "0", "0", "1", "any")
+}
 
 func (t *talker) send(kinds ...string) string {
 	return t.One(kinds...) + "(0, " + t.number(t.ranks) + ", " + t.One("0", "0", "0", "1") + ", rank * 10 + " + t.number(3) + ", " + t.One("1", "2") + ");"
@@ -55,6 +62,9 @@ func (t *talker) receive(kinds ...string) string {
 func (t *talker) request() string { return t.number(t.requests) }
 
 func (t *talker) statement() string {
+	if t.busy && t.Throw(3) > 0 {
+		return t.One(t.send("bsend"), t.send("bsend"), t.receive("recv"), t.receive("recv", "iprobe")+t.One("", " if value > 9 { "+t.send("bsend")+" }"))
+	}
 	switch t.Throw(16) {
 	case 0, 1, 2, 3, 4:
 		return t.send("send", "send", "bsend", "bsend", "ssend")
