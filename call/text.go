@@ -8,16 +8,6 @@ import (
 	"dispatcher/tree"
 )
 
-// words stand by kinds.
-var words = [...]string{
-	api.CkSend: "send", api.CkSsend: "ssend", api.CkBsend: "bsend", api.CkIsend: "isend", api.CkIssend: "issend",
-	api.CkRecv: "recv", api.CkIrecv: "irecv",
-	api.CkWait: "wait", api.CkWaitall: "waitall", api.CkWaitany: "waitany", api.CkTest: "test", api.CkTestany: "testany",
-	api.CkProbe: "probe", api.CkIprobe: "iprobe",
-	api.CkBarrier: "barrier", api.CkBcast: "bcast", api.CkReduce: "reduce", api.CkAllreduce: "allreduce", api.CkGather: "gather",
-	api.CkDup: "dup", api.CkSplit: "split", api.CkFree: "free",
-}
-
 var reductions = [...]string{api.RdSum: "sum", api.RdMax: "max", api.RdMin: "min"}
 
 // Text: P16.3.
@@ -30,7 +20,7 @@ func Text(c api.Call) (string, api.Errno) {
 		if !asMany(c) {
 			return "", api.ErrCall
 		}
-		return words[c.Kind] + "(" + row(c.Reqs...) + ")", api.OK
+		return word(c.Kind) + "(" + row(c.Reqs...) + ")", api.OK
 	}
 	var numbers []int64
 	last := ""
@@ -41,7 +31,7 @@ func Text(c api.Call) (string, api.Errno) {
 			numbers = append(numbers, number(c, field))
 		}
 	}
-	return words[c.Kind] + "(" + row(numbers...) + last + ")", api.OK
+	return word(c.Kind) + "(" + row(numbers...) + last + ")", api.OK
 }
 
 // Parse: P16.3.
@@ -138,4 +128,16 @@ func reduction(word string) uint8 {
 		}
 	}
 	return 0
+}
+
+// word tells the word of a kind of calls.
+func word(kind uint8) string {
+	return [...]string{
+		api.CkSend: "send", api.CkSsend: "ssend", api.CkBsend: "bsend", api.CkIsend: "isend", api.CkIssend: "issend",
+		api.CkRecv: "recv", api.CkIrecv: "irecv",
+		api.CkWait: "wait", api.CkWaitall: "waitall", api.CkWaitany: "waitany", api.CkTest: "test", api.CkTestany: "testany",
+		api.CkProbe: "probe", api.CkIprobe: "iprobe",
+		api.CkBarrier: "barrier", api.CkBcast: "bcast", api.CkReduce: "reduce", api.CkAllreduce: "allreduce", api.CkGather: "gather",
+		api.CkDup: "dup", api.CkSplit: "split", api.CkFree: "free",
+	}[kind]
 }

@@ -328,7 +328,7 @@ func TestProbes(t *testing.T) {
 	picks(t, c, 0, answered(0, 1, -1, 0, 0), answered(0, 1, 0, 1, 0), answered(0, 1, 0, 2, 0))
 	d := c.Copy()
 	do(t, d, answered(0, 1, -1, 0, 0))
-	tell(t, d, 0, api.Result{})
+	tell(t, d, 0, api.Result{Index: -1})
 	make2(t, d, 0, receiving(api.CkIprobe, 1, 9))
 	picks(t, d, 0)
 	do(t, c, answered(0, 1, 0, 1, 0))

@@ -212,7 +212,7 @@ func (c *Core) takeOne(rank int, m *made) api.Result {
 
 func (c *Core) probed(rank int, m *made) api.Result {
 	if m.answer.value == no {
-		return api.Result{}
+		return api.Result{Index: -1}
 	}
 	message, _ := c.queue.Find(m.answer.from, m.answer.seq)
 	return api.Result{Flag: m.call.Kind == api.CkIprobe, Peer: m.numberOf(message.From), Tag: message.Tag}

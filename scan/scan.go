@@ -34,21 +34,16 @@ var signs = [...]string{
 	"(", ")", "{", "}", "[", "]", ";", ",", "=", "+", "-", "*", "/", "%", "<", ">", "!",
 }
 
-var words = [...]string{
-	"int", "if", "else", "while", "for", "assert", "stop",
-	"rank", "size", "any", "value", "peer", "tag", "flag", "index", "req", "comm", "row",
-	"sum", "max", "min",
-	"send", "ssend", "bsend", "isend", "issend", "recv", "irecv",
-	"wait", "waitall", "waitany", "test", "testany", "probe", "iprobe",
-	"barrier", "bcast", "reduce", "allreduce", "gather", "dup", "split", "free",
-}
-
 // Word: P1.1.
 func Word(s string) bool {
-	for _, w := range words {
-		if s == w {
-			return true
-		}
+	switch s {
+	case "int", "if", "else", "while", "for", "assert", "stop",
+		"rank", "size", "any", "value", "peer", "tag", "flag", "index", "req", "comm", "row",
+		"sum", "max", "min",
+		"send", "ssend", "bsend", "isend", "issend", "recv", "irecv",
+		"wait", "waitall", "waitany", "test", "testany", "probe", "iprobe",
+		"barrier", "bcast", "reduce", "allreduce", "gather", "dup", "split", "free":
+		return true
 	}
 	return false
 }
