@@ -28,7 +28,7 @@ func Seeded(seed int) *Dice {
 // One tells one of several texts.
 func (d *Dice) One(l ...string) string { return l[d.Throw(len(l))] }
 
-// writer makes a program of any statements; names and places may be wrong now and then only where wild is set.
+// writer makes a program of statements of all kinds.
 type writer struct {
 	*Dice
 	b      strings.Builder
