@@ -170,6 +170,18 @@ func TestDeep(t *testing.T) {
 			t.Errorf("%.30q: %v %d", x.s, w, Deep(p))
 		}
 	}
+	for _, x := range []struct {
+		s    string
+		deep int
+	}{
+		{"if 1 { assert - 1; }", 2}, {"if 1 { if 1 { assert 1 + 2; } }", 3}, {"if 1 { } else { assert - - - 1; }", 4}, {"if - - 1 { stop; }", 3}, {"while - 1 { while - - 1 { x = - - - 1; } }", 4}, {"for x < 3 { a[- - - - 1] = 1; }", 5},
+		{"x = - - - 1; if 1 { stop; }", 4}, {"if 1 { if 1 { if 1 { if 1 { stop; } } } x = - 1; }", 5}, {"if 1 { send(0, 1, - - 2, 3, 4); stop; }", 3}, {nested("if 1 { ", "assert "+nested("-", "1", "", 31)+";", " }", 31), 32},
+		{nested("for x < 2 { ", "assert row["+nested("!", "1", "", 30)+"];", " }", 12), 32}, {nested("if 1 { } else { ", "assert 1+1;", " }", 31), 32},
+	} {
+		if p := parsed(t, x.s); Deep(p) != x.deep || !May(p) {
+			t.Errorf("each for itself: %.40q: %d", x.s, Deep(p))
+		}
+	}
 	e := Expr{Op: XNum}
 	for range 40 {
 		e = Expr{Op: XNeg, Args: []Expr{e}}
@@ -177,6 +189,12 @@ func TestDeep(t *testing.T) {
 	p := Program{Body: []Stmt{{Op: SAssert, Exprs: []Expr{e}}}}
 	if Deep(p) != 41 || May(p) {
 		t.Errorf("%d", Deep(p))
+	}
+	for range 50 {
+		p = Program{Body: []Stmt{{Op: SIf, Exprs: []Expr{{Op: XNum}}, Else: p.Body}}}
+	}
+	if Deep(p) != 51 || May(p) {
+		t.Errorf("each for itself, of what may not be: %d", Deep(p))
 	}
 }
 
