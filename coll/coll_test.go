@@ -49,6 +49,25 @@ func TestMay(t *testing.T) {
 			t.Errorf("%v", x.p)
 		}
 	}
+	for _, ranks := range [][]int{{53, 53}, {-1}, {api.MaxRanks}, {3, 1, 3}, make([]int, api.MaxRanks+1)} {
+		last := len(ranks) - 1
+		g := group.Group{Key: "x", Ranks: ranks}
+		for _, x := range []struct {
+			p  Part
+			ok bool
+		}{
+			{Part{Kind: api.CkBarrier}, true}, {Part{Kind: api.CkSplit, Color: -1}, true}, {Part{Kind: api.CkAllreduce, Op: api.RdMin}, true}, {Part{Kind: api.CkBcast, Root: last}, true}, {Part{Kind: api.CkReduce, Root: last, Op: api.RdMax}, true},
+			{Part{Kind: api.CkGather, Root: last + 1}, false}, {Part{Kind: api.CkBcast, Root: -1}, false}, {Part{Kind: api.CkDup, Root: last + 1}, false}, {Part{Kind: api.CkBarrier, Op: api.RdMax}, false}, {Part{Kind: api.CkFree}, false}, {Part{}, false},
+		} {
+			if May(g, x.p) != x.ok {
+				t.Errorf("%v may not be, but that isn't asked of %v", ranks, x.p)
+			}
+			c := New(false)
+			if k, e := c.Bring(g, ranks[0], x.p); k != 0 || e != api.ErrArg || c.Many("x", ranks[0]) != 0 {
+				t.Errorf("%v may not be: %d %d", ranks, k, e)
+			}
+		}
+	}
 	a := Part{Kind: api.CkReduce, Root: 1, Op: 1, Value: 5}
 	for _, b := range []Part{{Kind: api.CkBcast, Root: 1, Op: 1}, {Kind: api.CkReduce, Root: 2, Op: 1}, {Kind: api.CkReduce, Root: 1}} {
 		if Fit(a, b) || Fit(b, a) {
